@@ -278,26 +278,39 @@ func TestFlowWrittenOut(t *testing.T) {
 func TestFlowOfAllEdges(t *testing.T) {
 	words := []string{"", "x", "X", "xX", "Xx", "y", "xXx", "XxX"}
 	dice := rand.New(rand.NewSource(5))
+	for _, p := range smallProgs() {
+		for range 5 {
+			diceOps(dice, p, words)
+			checkFlow(t, p, "x", flowOnRuns(p, "x", 9))
+			checkFlow(t, p, "x", slowFlow(p, "x"))
+		}
+	}
+}
+
+// smallProgs returns a program of blocks that do nothing for each set of edges among a few of them that makes one valid.
+func smallProgs() []impl.Prog {
+	var list []impl.Prog
 	for _, names := range []string{"AB", "CAB", "ADCB"} {
 		n := len(names)
 		for set := range 1 << (n * n) {
 			p := impl.Prog{Blocks: chain(names)}
 			for i := range n * n {
 				if set>>i&1 == 1 {
-					p.Edges = append(p.Edges, impl.Edge{From: names[i/n : i/n+1], To: names[i%n : i%n+1]})
+					p.Edges = append(p.Edges, edge(names[i/n:i/n+1], names[i%n:i%n+1]))
 				}
 			}
-			if !slowValid(p) {
-				continue
-			}
-			for range 5 {
-				for i := 1; i < n; i++ {
-					p.Blocks[i].Ops = words[dice.Intn(len(words))]
-				}
-				checkFlow(t, p, "x", flowOnRuns(p, "x", 9))
-				checkFlow(t, p, "x", slowFlow(p, "x"))
+			if slowValid(p) {
+				list = append(list, p)
 			}
 		}
+	}
+	return list
+}
+
+// diceOps makes up what all blocks but the entry do.
+func diceOps(dice *rand.Rand, p impl.Prog, words []string) {
+	for i := 1; i < len(p.Blocks); i++ {
+		p.Blocks[i].Ops = words[dice.Intn(len(words))]
 	}
 }
 

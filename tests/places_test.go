@@ -377,25 +377,11 @@ func TestAllPlaces(t *testing.T) {
 func TestPlacesOfAllEdges(t *testing.T) {
 	words := []string{"", "x", "x", "X", "xX", "Xx", "xXx", "xxXxx"}
 	dice := rand.New(rand.NewSource(7))
-	for _, names := range []string{"AB", "CAB", "ADCB"} {
-		n := len(names)
-		for set := range 1 << (n * n) {
-			p := impl.Prog{Blocks: chain(names)}
-			for i := range n * n {
-				if set>>i&1 == 1 {
-					p.Edges = append(p.Edges, edge(names[i/n:i/n+1], names[i%n:i%n+1]))
-				}
-			}
-			if !slowValid(p) {
-				continue
-			}
-			runs := runsOfAll(p, 8)
-			for range 4 {
-				for i := 1; i < n; i++ {
-					p.Blocks[i].Ops = words[dice.Intn(len(words))]
-				}
-				checkByRuns(t, p, dicePlace(dice, p, "x"), runs)
-			}
+	for _, p := range smallProgs() {
+		runs := runsOfAll(p, 8)
+		for range 4 {
+			diceOps(dice, p, words)
+			checkByRuns(t, p, dicePlace(dice, p, "x"), runs)
 		}
 	}
 }
