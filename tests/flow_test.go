@@ -408,15 +408,22 @@ func TestFlowOfOtherProgs(t *testing.T) {
 func TestFlowAskedAtOnce(t *testing.T) {
 	p := mustParse(t, manyText)
 	want, _ := impl.FlowOf(p, "x")
+	atOnce(func() {
+		if got, ok := impl.FlowOf(p, "x"); got != want || !ok {
+			t.Errorf("FlowOf = %q, %v", got, ok)
+		}
+	})
+}
+
+// atOnce asks again and again from several goroutines.
+func atOnce(ask func()) {
 	var all sync.WaitGroup
 	for range 8 {
 		all.Add(1)
 		go func() {
 			defer all.Done()
 			for range 50 {
-				if got, ok := impl.FlowOf(p, "x"); got != want || !ok {
-					t.Errorf("FlowOf = %q, %v", got, ok)
-				}
+				ask()
 			}
 		}()
 	}

@@ -7,7 +7,6 @@ import (
 	"reflect"
 	"slices"
 	"strings"
-	"sync"
 	"testing"
 
 	"loop.example/onceways/impl"
@@ -26,6 +25,11 @@ var placeTexts = []string{
 	"A,B,CxX,D,Ex:AB,BC,CB,BD,DE,CE",
 	"I,Dx,Gx,Bx,Ax,CX,H:ID,DG,GB,BA,AC,CH,IA,IB",
 	"A,BxX,CXx,DxXx,ExX,Fx:AB,BC,CD,DE,EF,BD,CE,EB,DB",
+}
+
+// notRuns are texts that are no run of the example.
+var notRuns = []string{
+	"", "A", "E", "AE", "AB", "ABD", "BDE", "CDE", "ABE", "ACDEE", "AABDE", "ABDEABDE", "abde", "ABDE ", " ABDE", "A,B,D,E", "AFDE", "ABD\xff", "-", strings.Repeat("ABDE", 100000),
 }
 
 // namesOf returns the names of all blocks.
@@ -742,7 +746,7 @@ func TestThereWithOfNoBlock(t *testing.T) {
 
 func TestCountWithOfNoRun(t *testing.T) {
 	p := mustParse(t, example)
-	for _, run := range []string{"", "A", "E", "AE", "AB", "ABD", "BDE", "CDE", "ABE", "ACDEE", "AABDE", "ABDEABDE", "abde", "ABDE ", " ABDE", "A,B,D,E", "AFDE", "ABD\xff", "-", strings.Repeat("ABDE", 100000)} {
+	for _, run := range notRuns {
 		for _, text := range []string{"-/-", "CD/D", "AB,AC/BD"} {
 			for _, term := range []string{"x", "y", "w"} {
 				if got := impl.CountWith(p, term, mustPlace(t, p, text), run); got != -1 {
@@ -802,19 +806,11 @@ func TestPlacesAskedAtOnce(t *testing.T) {
 	p := mustParse(t, manyText)
 	puts := []int{0, 2, 5, 9}
 	want, _ := impl.DropMost(p, "x", puts)
-	var all sync.WaitGroup
-	for range 8 {
-		all.Add(1)
-		go func() {
-			defer all.Done()
-			for range 50 {
-				if got, ok := impl.DropMost(p, "x", puts); !reflect.DeepEqual(got, want) || !ok || !impl.PlaceValid(p, "x", got) {
-					t.Errorf("DropMost = %v, %v", got, ok)
-				}
-			}
-		}()
-	}
-	all.Wait()
+	atOnce(func() {
+		if got, ok := impl.DropMost(p, "x", puts); !reflect.DeepEqual(got, want) || !ok || !impl.PlaceValid(p, "x", got) {
+			t.Errorf("DropMost = %v, %v", got, ok)
+		}
+	})
 }
 
 func TestPlaceArgumentsStay(t *testing.T) {

@@ -7,7 +7,6 @@ import (
 	"slices"
 	"strconv"
 	"strings"
-	"sync"
 	"testing"
 
 	"loop.example/onceways/impl"
@@ -628,7 +627,7 @@ func noGain(t *testing.T, p impl.Prog, term string, q impl.Place, run string) {
 
 func TestGainOnNoRun(t *testing.T) {
 	p := mustParse(t, example)
-	for _, run := range []string{"", "A", "E", "AE", "AB", "ABD", "BDE", "CDE", "ABE", "ACDEE", "AABDE", "ABDEABDE", "abde", "ABDE ", " ABDE", "A,B,D,E", "AFDE", "ABD\xff", "-", strings.Repeat("ABDE", 100000)} {
+	for _, run := range notRuns {
 		for _, text := range []string{"-/-", "CD/D", "AB,AC/BD"} {
 			for _, term := range []string{"x", "y", "w"} {
 				noGain(t, p, term, mustPlace(t, p, text), run)
@@ -740,24 +739,16 @@ func TestWaysAskedAtOnce(t *testing.T) {
 	p := mustParse(t, manyText)
 	q, r := impl.Place{Puts: []int{0, 2, 5, 9}, Drops: "B"}, impl.Place{Puts: []int{1, 2, 5}, Drops: "D"}
 	want := slowContest(p, "x", q, r)
-	var all sync.WaitGroup
-	for range 8 {
-		all.Add(1)
-		go func() {
-			defer all.Done()
-			for range 50 {
-				more, _ := impl.MostMore(p, "x", q, r)
-				run, ok := impl.WorstRun(p, "x", q, r)
-				if got := told(more, run); ok && got != want.more || ok != (want.more != noGreatest) {
-					t.Errorf("%q, %v instead of %q", got, ok, want.more)
-				}
-				if impl.SameCounts(p, "x", q, r) != want.same || impl.IsBetter(p, "x", q, r) != want.better || impl.NeverMore(p, "x", q) != want.never {
-					t.Errorf("not %+v", want)
-				}
-			}
-		}()
-	}
-	all.Wait()
+	atOnce(func() {
+		more, _ := impl.MostMore(p, "x", q, r)
+		run, ok := impl.WorstRun(p, "x", q, r)
+		if got := told(more, run); ok && got != want.more || ok != (want.more != noGreatest) {
+			t.Errorf("%q, %v instead of %q", got, ok, want.more)
+		}
+		if impl.SameCounts(p, "x", q, r) != want.same || impl.IsBetter(p, "x", q, r) != want.better || impl.NeverMore(p, "x", q) != want.never {
+			t.Errorf("not %+v", want)
+		}
+	})
 }
 
 // TestWaysArgumentsStay has places whose edges share memory, with more of it behind them, and answers that stay when all of it
