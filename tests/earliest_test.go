@@ -41,6 +41,16 @@ func wantedEdges(p impl.Prog, term string) []int {
 	return list
 }
 
+// lettersIn returns the letters of a text that another one has as well.
+func lettersIn(text, other string) string {
+	return strings.Map(func(letter rune) rune {
+		if !strings.ContainsRune(other, letter) {
+			return -1
+		}
+		return letter
+	}, text)
+}
+
 // allowedPlaces returns all places that are valid and wanted, or those of them alone that drop as much as they can.
 func allowedPlaces(p impl.Prog, term string, most bool) []impl.Place {
 	var list []impl.Place
@@ -51,12 +61,7 @@ func allowedPlaces(p impl.Prog, term string, most bool) []impl.Place {
 			puts = append(puts, wanted[i])
 		}
 		there := slowThere(p, term, impl.Place{Puts: puts})
-		full := strings.Map(func(name rune) rune {
-			if !strings.ContainsRune(there, name) {
-				return -1
-			}
-			return name
-		}, first)
+		full := lettersIn(first, there)
 		for drops := range 1 << len(full) {
 			if !most || drops == 1<<len(full)-1 {
 				list = append(list, impl.Place{Puts: puts, Drops: lettersOf(full, drops)})
@@ -487,19 +492,23 @@ func noEarliest(t *testing.T, p impl.Prog, term string) {
 	}
 }
 
-func TestEarliestOfNoTerm(t *testing.T) {
+// checkNoTerm asks of words that are no term what is told of none.
+func checkNoTerm(t *testing.T, none func(*testing.T, impl.Prog, string)) {
+	t.Helper()
 	for _, text := range []string{example, "A,BxyzXYZ,C,Dxyz,E:AB,AC,BD,CD,DE", "A,B:AB"} {
 		for _, term := range notTerms {
-			noEarliest(t, mustParse(t, text), term)
+			none(t, mustParse(t, text), term)
 		}
 	}
 }
 
-func TestEarliestOfProgsThatAreNotValid(t *testing.T) {
+// checkBadProgs asks of programs that are not valid what is told of none.
+func checkBadProgs(t *testing.T, none func(*testing.T, impl.Prog, string)) {
+	t.Helper()
 	for what, p := range badProgs() {
 		before := t.Failed()
 		for _, term := range []string{"x", "y", "z", "X", ""} {
-			noEarliest(t, p, term)
+			none(t, p, term)
 		}
 		if t.Failed() && !before {
 			t.Errorf("it is %s", what)
@@ -507,19 +516,29 @@ func TestEarliestOfProgsThatAreNotValid(t *testing.T) {
 	}
 }
 
-func TestEarliestOnNoEdge(t *testing.T) {
-	indices := []int{-1, -2, -14, -16, -64, math.MinInt, math.MinInt + 1, -1 << 32, 14, 15, 16, 17, 63, 64, 65, 1 << 16, 1 << 32, 1<<32 + 1, math.MaxInt, math.MaxInt - 1}
+func TestEarliestOfNoTerm(t *testing.T) { checkNoTerm(t, noEarliest) }
+
+func TestEarliestOfProgsThatAreNotValid(t *testing.T) { checkBadProgs(t, noEarliest) }
+
+// notIndices are the index of no edge in any program.
+var notIndices = []int{-1, -2, -14, -16, -64, math.MinInt, math.MinInt + 1, -1 << 32, 14, 15, 16, 17, 63, 64, 65, 1 << 16, 1 << 32, 1<<32 + 1, math.MaxInt, math.MaxInt - 1}
+
+// checkNoEdge asks of indices of no edge what is told of an edge.
+func checkNoEdge(t *testing.T, on func(impl.Prog, string, int) bool) {
+	t.Helper()
 	for _, text := range []string{example, "A,Bx:AB", fullText, "A,BxX,CxX,DxX,ExX,FxX,GxX,HxX,IxX:AB,BC,CD,DE,EF,FG,GH,HI,BB,CC,DD,EE,FF,GG"} {
 		p := mustParse(t, text)
-		for _, i := range append([]int{len(p.Edges), len(p.Edges) + 1}, indices...) {
+		for _, i := range append([]int{len(p.Edges), len(p.Edges) + 1}, notIndices...) {
 			for _, term := range []string{"x", "y", "z", "w"} {
-				if impl.EarliestOn(p, term, i) {
-					t.Errorf("EarliestOn(%q, %q, %d)", text, term, i)
+				if on(p, term, i) {
+					t.Errorf("%q of %q has edge %d", term, text, i)
 				}
 			}
 		}
 	}
 }
+
+func TestEarliestOnNoEdge(t *testing.T) { checkNoEdge(t, impl.EarliestOn) }
 
 func TestSavesOnNoRun(t *testing.T) {
 	p := mustParse(t, example)
@@ -548,20 +567,14 @@ func TestEarliestAskedAtOnce(t *testing.T) {
 	})
 }
 
-func TestEarliestArgumentsStay(t *testing.T) {
+// checkStay asks of terms of some programs, which stay as they are, unused capacity included.
+func checkStay(t *testing.T, ask func(p impl.Prog, term string)) {
+	t.Helper()
 	for _, prog := range []impl.Prog{mustParse(t, example), mustParse(t, fullText), mustParse(t, manyText), build(blocks("A", "Bx", "C"), "AB", "BC", "BA")} {
 		p, whole := withSpare(prog)
 		before := copyOf(whole)
 		for _, term := range []string{"x", "y", "w"} {
-			impl.EarliestEdges(p, term)
-			impl.EarliestPlace(p, term)
-			impl.CanSave(p, term)
-			for _, i := range []int{-1, 0, 1, 14} {
-				impl.EarliestOn(p, term, i)
-			}
-			for _, run := range []string{"ABDE", "ABE", "ABCDEFGHI", "AE"} {
-				impl.SavesOn(p, term, run)
-			}
+			ask(p, term)
 		}
 		if !reflect.DeepEqual(whole, before) {
 			t.Errorf("%v became %v", before, whole)
@@ -569,33 +582,52 @@ func TestEarliestArgumentsStay(t *testing.T) {
 	}
 }
 
-// TestEarliestSharesNothing overwrites arguments and answers, unused capacity included.
+func TestEarliestArgumentsStay(t *testing.T) {
+	checkStay(t, func(p impl.Prog, term string) {
+		impl.EarliestEdges(p, term)
+		impl.EarliestPlace(p, term)
+		impl.CanSave(p, term)
+		for _, i := range []int{-1, 0, 1, 14} {
+			impl.EarliestOn(p, term, i)
+		}
+		for _, run := range []string{"ABDE", "ABE", "ABCDEFGHI", "AE"} {
+			impl.SavesOn(p, term, run)
+		}
+	})
+}
+
+// checkApart overwrites arguments and answers, unused capacity included, of functions that return edges and places for x.
+func checkApart(t *testing.T, text string, edgesOf func(impl.Prog, string) ([]int, bool), placeOf func(impl.Prog, string) (impl.Place, bool)) {
+	t.Helper()
+	p, whole := withSpare(mustParse(t, text))
+	makers := []func() []int{
+		func() []int { edges, _ := edgesOf(p, "x"); return edges },
+		func() []int { q, _ := placeOf(p, "x"); return q.Puts },
+	}
+	want := slices.Clone(makers[0]())
+	var kept [][]int
+	for _, made := range append(makers, makers...) {
+		edges := made()
+		for i := range edges[:cap(edges)] {
+			edges[:cap(edges)][i] = -9
+		}
+		kept = append(kept, made())
+	}
+	q, _ := placeOf(p, "x")
+	drops := strings.Clone(q.Drops)
+	overwrite(whole)
+	for _, edges := range append(kept, q.Puts) {
+		if !slices.Equal(edges, want) {
+			t.Errorf("%q: %v became %v", text, want, edges)
+		}
+	}
+	if q.Drops != drops {
+		t.Errorf("%q: %q became %q", text, drops, q.Drops)
+	}
+}
+
 func TestEarliestSharesNothing(t *testing.T) {
 	for _, text := range []string{example, onceText, "A,Bx:AB", "A,BXx,Cx,D:AB,BC,CD", "A,BxX,CxX,DxX:AB,BC,CD,BB,CC", "A,Bx,Cx,D:AB,AC,BC,CB,BD,CD"} {
-		p, whole := withSpare(mustParse(t, text))
-		want := slowEarliest(p, "x")
-		makers := []func() []int{
-			func() []int { edges, _ := impl.EarliestEdges(p, "x"); return edges },
-			func() []int { q, _ := impl.EarliestPlace(p, "x"); return q.Puts },
-		}
-		var kept [][]int
-		for _, made := range append(makers, makers...) {
-			edges := made()
-			for i := range edges[:cap(edges)] {
-				edges[:cap(edges)][i] = -9
-			}
-			kept = append(kept, made())
-		}
-		q, _ := impl.EarliestPlace(p, "x")
-		drops := strings.Clone(q.Drops)
-		overwrite(whole)
-		for _, edges := range append(kept, q.Puts) {
-			if !slices.Equal(edges, want) {
-				t.Errorf("%q: %v became %v", text, want, edges)
-			}
-		}
-		if q.Drops != drops {
-			t.Errorf("%q: %q became %q", text, drops, q.Drops)
-		}
+		checkApart(t, text, impl.EarliestEdges, impl.EarliestPlace)
 	}
 }
