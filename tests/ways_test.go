@@ -58,6 +58,14 @@ func asked(t *testing.T, p impl.Prog, term string, q, r impl.Place) contest {
 	return c
 }
 
+// A gauge tells how much more of something blocks that follow on each other have with a place than with another one.
+type gauge func(part string) int
+
+// moreBy tells how much more they compute.
+func moreBy(p impl.Prog, term string, q, r impl.Place) gauge {
+	return func(part string) int { return moreOn(p, term, q, r, part) }
+}
+
 // moreOn returns how much more blocks that follow on each other compute with a place than with another one, by the letters
 // that are left of them.
 func moreOn(p impl.Prog, term string, q, r impl.Place, part string) int {
@@ -82,10 +90,10 @@ func waysTo(p impl.Prog, way, to string) []string {
 }
 
 // risingLoop returns a loop that makes the difference greater, from a block back to it, or nothing.
-func risingLoop(p impl.Prog, term string, q, r impl.Place) string {
+func risingLoop(p impl.Prog, more gauge) string {
 	for _, b := range p.Blocks {
 		for _, loop := range waysTo(p, b.Name, b.Name) {
-			if moreOn(p, term, q, r, loop) > moreOn(p, term, q, r, b.Name) {
+			if more(loop) > more(b.Name) {
 				return loop
 			}
 		}
@@ -94,24 +102,29 @@ func risingLoop(p impl.Prog, term string, q, r impl.Place) string {
 }
 
 // worstOf returns the greatest difference that some runs have, and the run that is told.
-func worstOf(p impl.Prog, term string, q, r impl.Place, runs []string) (int, string) {
+func worstOf(runs []string, more gauge) (int, string) {
 	most, worst := math.MinInt, ""
 	for _, run := range runs {
-		more := moreOn(p, term, q, r, run)
+		n := more(run)
 		fewer := len(run) < len(worst) || len(run) == len(worst) && run < worst
-		if more > most || more == most && fewer {
-			most, worst = more, run
+		if n > most || n == most && fewer {
+			most, worst = n, run
 		}
 	}
 	return most, worst
 }
 
-// slowMost looks at all loops and at all runs that come to no block twice: any run is one of these with loops put in.
-func slowMost(p impl.Prog, term string, q, r impl.Place) string {
-	if risingLoop(p, term, q, r) != "" {
+// mostOf looks at all loops and at all runs that come to no block twice: any run is one of these with loops put in.
+func mostOf(p impl.Prog, more gauge) string {
+	if risingLoop(p, more) != "" {
 		return noGreatest
 	}
-	return told(worstOf(p, term, q, r, waysTo(p, p.Blocks[0].Name, p.Blocks[len(p.Blocks)-1].Name)))
+	return told(worstOf(waysTo(p, p.Blocks[0].Name, p.Blocks[len(p.Blocks)-1].Name), more))
+}
+
+// slowMost tells how much more is computed at most, and on which run.
+func slowMost(p impl.Prog, term string, q, r impl.Place) string {
+	return mostOf(p, moreBy(p, term, q, r))
 }
 
 // noneMore tells by a greatest difference whether no run computes more.
@@ -141,13 +154,15 @@ func checkContest(t *testing.T, p impl.Prog, term string, q, r impl.Place) conte
 func checkOnRuns(t *testing.T, p impl.Prog, term string, q, r impl.Place, runs []string) {
 	t.Helper()
 	what := strings.Join([]string{term, impl.FormatProg(p), slowPlaceText(p, q), slowPlaceText(p, r)}, " ")
-	more, worst := worstOf(p, term, q, r, runs)
+	more, worst := worstOf(runs, moreBy(p, term, q, r))
 	if got := askedMost(t, p, term, q, r); got == noGreatest {
-		checkRising(t, p, term, q, r)
+		checkRising(t, p, what, moreBy(p, term, q, r), func(run string) int {
+			return impl.CountWith(p, term, q, run) - impl.CountWith(p, term, r, run)
+		})
 	} else if got != told(more, worst) {
 		t.Fatalf("%s: it is %q, but on runs %q", what, got, told(more, worst))
 	}
-	less, _ := worstOf(p, term, r, q, runs)
+	less, _ := worstOf(runs, moreBy(p, term, r, q))
 	if same := more == 0 && less == 0; impl.SameCounts(p, term, q, r) != same {
 		t.Fatalf("%s: SameCounts is %v", what, !same)
 	}
@@ -165,12 +180,12 @@ func checkOnRuns(t *testing.T, p impl.Prog, term string, q, r impl.Place, runs [
 	}
 }
 
-// checkRising goes around a loop more and more often, which makes the difference greater each time.
-func checkRising(t *testing.T, p impl.Prog, term string, q, r impl.Place) {
+// checkRising goes around a loop more and more often, which makes the difference that is told of runs greater each time.
+func checkRising(t *testing.T, p impl.Prog, what string, more, onRun gauge) {
 	t.Helper()
-	loop := risingLoop(p, term, q, r)
+	loop := risingLoop(p, more)
 	if loop == "" {
-		t.Fatalf("%q of %q, %v and %v: no loop makes it greater", term, impl.FormatProg(p), q, r)
+		t.Fatalf("%s: no loop makes it greater", what)
 	}
 	head := p.Blocks[0].Name
 	if loop[:1] != head {
@@ -180,11 +195,11 @@ func checkRising(t *testing.T, p impl.Prog, term string, q, r impl.Place) {
 	last := math.MinInt
 	for n := 0; len(head)+n*(len(loop)-1)+len(tail) <= impl.MaxRun; n++ {
 		run := head + strings.Repeat(loop[1:], n) + tail
-		more := impl.CountWith(p, term, q, run) - impl.CountWith(p, term, r, run)
-		if !impl.IsRun(p, run) || more <= last {
-			t.Fatalf("%q of %q, %v and %v: %d on %q, not more than %d", term, impl.FormatProg(p), q, r, more, run, last)
+		got := onRun(run)
+		if !impl.IsRun(p, run) || got <= last {
+			t.Fatalf("%s: %d on %q, not more than %d", what, got, run, last)
 		}
-		last = more
+		last = got
 	}
 }
 
